@@ -57,7 +57,7 @@ func starts(i *image.Image, n int) []int {
 	return l
 }
 
-// state tells what an image shows. (Its file may have become longer, so that its Counts are more.)
+// state tells what an image shows. (Its Counts hang on how long its file is too.)
 func state(i *image.Image) string {
 	m := i.Meta()
 	m.Counts = nil
@@ -245,6 +245,44 @@ func TestUndoneBehindAFlush(t *testing.T) {
 			want(t, "the state before", state(j), before)
 		}
 	}
+}
+
+// A call that is undone leaves the file as long as it was, so that it takes no room from others; unless the state that is
+// stored in it needs more.
+func TestAnUndoneCallTakesNoRoom(t *testing.T) {
+	d, i := rich(t)
+	before := whole(i)
+	end := i.Begin()
+	changeAll(t, i)
+	inner := i.Begin()
+	must(t, "Put", i.Put(0, c(200)), i.Put(1, c(201)))
+	inner(api.ErrSpace)
+	end(api.ErrSpace)
+	want(t, "undone", whole(i), before)
+
+	end = i.Begin()
+	must(t, "Put, Flush", i.Put(0, c(202)), i.Put(1, c(203)), i.Flush())
+	flushed := state(opened(t, d, "f"))
+	must(t, "Put", i.Put(2, c(204)), i.Put(3, c(205)))
+	end(api.ErrSpace)
+	want(t, "what is stored", state(opened(t, d, "f")), flushed)
+	must(t, "Flush", i.Flush())
+	want(t, "what is stored", state(opened(t, d, "f")), state(i))
+
+	end = i.Begin()
+	must(t, "Put", i.Put(0, c(206)))
+	d.Power(1)
+	want(t, "Put", i.Put(1, c(207)), api.ErrDead)
+	end(api.ErrDead)
+	d.Crash([]bool{true})
+	want(t, "what is stored", state(opened(t, d, "f")), state(i))
+
+	must(t, "Remove", d.Remove("f"))
+	before = whole(i)
+	end = i.Begin()
+	must(t, "Zero", i.Zero(0))
+	end(api.ErrName)
+	want(t, "undone", whole(i), before)
 }
 
 // A nil image has calls that change nothing.

@@ -11,6 +11,8 @@ func (i *Image) Begin() func(errno api.Errno) {
 		return func(api.Errno) {}
 	}
 	current, slot, changed, known := i.current, i.slot, i.changed, i.known.Copy()
+	// A file that is not there has no sectors.
+	sectors, _ := i.disk.Size(i.name)
 	i.calls++
 	ended := false
 	return func(errno api.Errno) {
@@ -24,5 +26,14 @@ func (i *Image) Begin() func(errno api.Errno) {
 		}
 		i.calls--
 		i.countUses()
+		if errno != api.OK {
+			i.cut(sectors)
+		}
 	}
+}
+
+// cut takes from the file what it has beyond n sectors, as far as nobody uses it, so that other files have the room.
+func (i *Image) cut(n int) {
+	// A file that is not so long can't be cut, nor any one while the power is off.
+	i.disk.Cut(i.name, max(n, len(i.uses)))
 }
